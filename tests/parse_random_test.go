@@ -516,6 +516,7 @@ func (w *writer) tyForm(d *tyDraft, own int, vars []string) {
 // nodes appends the node and its descendants in preorder.
 func (d *draft) nodes(list []impl.Node) []impl.Node {
 	at := len(list)
+	d.Pats = nil
 	for _, q := range d.pats {
 		d.Pats = append(d.Pats, impl.Pat{Nodes: q.nodes(nil)})
 	}
