@@ -63,8 +63,22 @@ func programWith(kids [][]int) impl.Program {
 	return p
 }
 
-// TestEveryOrder gives every node of a pattern and of a program every list of
-// children: valid are those, and only those, that are trees in preorder.
+// dataWith has nodes with these children: PUnit, PCon and PPair.
+func dataWith(kids [][]int) impl.Data {
+	d := impl.Data{}
+	for _, k := range kids {
+		n := dnode([]int{impl.PUnit, impl.PCon, impl.PPair}[len(k)], 0, "", k...)
+		if n.Kind == impl.PCon {
+			n.S = "A"
+		}
+		d.Nodes = append(d.Nodes, n)
+	}
+	return d
+}
+
+// TestEveryOrder gives every node of a pattern, of a program and of a value
+// every list of children: valid are those, and only those, that are trees in
+// preorder.
 func TestEveryOrder(t *testing.T) {
 	for n := 1; n <= 4; n++ {
 		valid := map[string]bool{}
@@ -101,12 +115,15 @@ func TestEveryOrder(t *testing.T) {
 
 func checkOrder(t *testing.T, kids [][]int, want bool) {
 	t.Helper()
-	q, p := patWith(kids), programWith(kids)
+	q, p, d := patWith(kids), programWith(kids), dataWith(kids)
 	if impl.PatOk(q) != want || (impl.PrintPat(q) != "") != want {
 		t.Fatalf("a pattern with the children %v: PatOk is %v, PrintPat is %q", kids, impl.PatOk(q), impl.PrintPat(q))
 	}
 	if impl.ProgramOk(p) != want || (impl.PrintProgram(p) != "") != want || impl.SameProgram(p, p) != want {
 		t.Fatalf("a program with the children %v: ProgramOk is %v, PrintProgram is %q", kids, impl.ProgramOk(p), impl.PrintProgram(p))
+	}
+	if _, hit := impl.Hit(q, d); impl.DataOk(d) != want || hit != want {
+		t.Fatalf("a value with the children %v: DataOk is %v, Hit is %v", kids, impl.DataOk(d), hit)
 	}
 }
 
