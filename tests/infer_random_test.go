@@ -71,12 +71,15 @@ func TestInferAllSmallPrograms(t *testing.T) {
 }
 
 // maker writes random expressions of given types. One expression of so many is
-// a mistake, or none if the number is 0.
+// a mistake, or none if the number is 0. In the same way, one of so many calls
+// tell with the next number ahead of everything else.
 type maker struct {
 	lot
 	env      []made
 	vars     int
 	mistakes int
+	tells    int
+	told     int
 }
 
 // made is a binding, whose type is a draft. Variables from a number on are
@@ -200,6 +203,14 @@ func (m *maker) called(k made, ty *tyDraft, want *tyDraft, size int) string {
 }
 
 func (m *maker) expr(want *tyDraft, size int) string {
+	if m.tells > 0 && m.next(m.tells) == 0 {
+		m.told++
+		return "(tell " + strconv.Itoa(m.told) + "; " + m.untold(want, size) + ")"
+	}
+	return m.untold(want, size)
+}
+
+func (m *maker) untold(want *tyDraft, size int) string {
 	if m.mistakes > 0 && m.next(m.mistakes) == 0 {
 		return m.wrong(want, size)
 	}
