@@ -84,16 +84,14 @@ func wide(names int, d *draft) *draft {
 	return match
 }
 
-// TestCompileManyBindings: code in which an OpVar would count more than MaxCode
-// bindings would not be valid. Only large patterns have so many names.
+// TestCompileManyBindings: an OpVar counts all the bindings, although code is
+// not valid with more than MaxCode of them. Only large patterns have so many
+// names.
 func TestCompileManyBindings(t *testing.T) {
 	for _, names := range []int{100, 300} {
 		d := repeated(impl.MaxCode/names, variable("x"), func(d *draft) *draft { return wide(names, d) })
-		for _, more := range []int{-1, 0, 1, 2} {
-			whole := repeated(max(0, more), d, func(d *draft) *draft { return node(impl.EFun, "y", d) })
-			if more < 0 {
-				whole = repeated(impl.MaxCode/names-1, variable("x"), func(d *draft) *draft { return wide(names, d) })
-			}
+		for more := range 3 {
+			whole := repeated(more, d, func(d *draft) *draft { return node(impl.EFun, "y", d) })
 			p := impl.Program{Nodes: node(impl.EFun, "x", whole).nodes(nil)}
 			if !impl.ProgramOk(p) {
 				t.Fatal("the program is not valid")
@@ -102,11 +100,8 @@ func TestCompileManyBindings(t *testing.T) {
 				t.Fatalf("Infer is %d and %d", code, at)
 			}
 			c, ok := compiled(t, p)
-			if ok != (more <= 0) {
-				t.Errorf("with %d names of %d, Compile is %v", more, names, ok)
-			}
-			if more == 0 && !slices.Contains(c.Ins, impl.Ins{Op: impl.OpVar, A: impl.MaxCode}) {
-				t.Errorf("with %d names, the code is %s", names, codeText(c))
+			if !ok || !slices.Contains(c.Ins, impl.Ins{Op: impl.OpVar, A: impl.MaxCode + more}) || countsFar(c) != (more > 0) {
+				t.Errorf("with %d more names of %d, Compile is %v with %s", more, names, ok, codeText(c))
 			}
 		}
 		near := repeated(20, variable("w0"), func(d *draft) *draft { return wide(names, d) })
@@ -114,6 +109,52 @@ func TestCompileManyBindings(t *testing.T) {
 			t.Errorf("%d names are not compiled", names)
 		}
 	}
+}
+
+// TestCompileMostBindings has as many bindings as a program can have, around
+// names of every kind.
+func TestCompileMostBindings(t *testing.T) {
+	around := func(name string) impl.Program {
+		whole := repeated(199, variable(name), func(d *draft) *draft { return wide(300, d) })
+		return impl.Program{Nodes: node(impl.EFun, "x", whole).nodes(nil)}
+	}
+	for name, want := range map[string]impl.Ins{"x": {Op: impl.OpVar, A: 199 * 300}, "w0": {Op: impl.OpVar}, "w299": {Op: impl.OpVar, A: 299}, "size": {Op: impl.OpGiven, S: "size"}} {
+		if c, ok := compiled(t, around(name)); !ok || !slices.Contains(c.Ins, want) {
+			t.Errorf("%s: Compile is %v, or there is no %+v", name, ok, want)
+		}
+	}
+	checkNoCode(t, "an unknown name in many bindings", around("y"))
+	// The unknown name may come before or after the one that is far from its
+	// binding.
+	for _, d := range []*draft{node(impl.EPair, "", variable("x"), variable("y")), node(impl.EPair, "", variable("y"), variable("x"))} {
+		whole := repeated(15, d, func(d *draft) *draft { return wide(300, d) })
+		checkNoCode(t, "an unknown name and a far one", impl.Program{Nodes: node(impl.EFun, "x", whole).nodes(nil)})
+	}
+}
+
+// TestCompiledManyBindingsRun: a count of more than MaxCode leads to the right
+// binding.
+func TestCompiledManyBindingsRun(t *testing.T) {
+	const names = 97
+	value := one()
+	for range names - 1 {
+		value = node(impl.EPair, "", one(), value)
+	}
+	whole := repeated(31, node(impl.EApp, "", variable("print"), variable("x")), func(d *draft) *draft {
+		match := node(impl.EMatch, "", variable("y"))
+		armDraft(widePair(names-1), d, match)
+		return match
+	})
+	seven := &draft{Node: impl.Node{Kind: impl.EInt, N: 7}}
+	p := impl.Program{Nodes: node(impl.ELet, "x", seven, node(impl.ELet, "y", value, whole)).nodes(nil)}
+	c, ok := compiled(t, p)
+	if !ok || !countsFar(c) || !slices.Contains(c.Ins, impl.Ins{Op: impl.OpVar, A: 1 + 31*names}) {
+		t.Fatalf("Compile is %v with %s", ok, codeText(c))
+	}
+	if o := ranCode(c, nil, 10000); o.Kind != impl.OutDone || !slices.Equal(o.Trace, []string{"7"}) {
+		t.Errorf("the outcome of the code is %s", outcomeText(o))
+	}
+	checkRan(t, p, c, nil)
 }
 
 // roomyCode is code whose slices all have something behind their ends.
