@@ -330,7 +330,7 @@ func outcomeText(o impl.Outcome) string {
 // briefOutcome has the lines of the Trace, each followed by a bar, and the
 // Kind, with N if it is not 0.
 func briefOutcome(o impl.Outcome) string {
-	kinds := map[int]string{0: "none", impl.OutDone: "done", impl.OutRaised: "raised", impl.OutSteps: "steps", impl.OutBad: "bad"}
+	kinds := map[int]string{0: "none", impl.OutDone: "done", impl.OutRaised: "raised", impl.OutSteps: "steps", impl.OutBad: "bad", impl.OutHeap: "heap"}
 	text := strings.Join(append(append([]string{}, o.Trace...), kinds[o.Kind]), "|")
 	if o.N != 0 {
 		text += " " + impl.NumText(o.N)
